@@ -1,0 +1,1 @@
+"""Bytes looked through; the calls are in byterows.rows."""

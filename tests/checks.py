@@ -1,0 +1,53 @@
+"""What the tests of every call share."""
+
+import contextlib
+import copy
+import inspect
+import io
+import unittest
+
+
+def refuse_change(self, *arguments, **keywords):
+    raise AssertionError("what was handed in is changed")
+
+
+class FixedList(list):
+    """A list that can't be changed, so that a change that is undone later is seen too."""
+
+    __setitem__ = __delitem__ = __iadd__ = __imul__ = refuse_change
+    append = extend = insert = pop = remove = clear = reverse = sort = refuse_change
+
+
+def fixed(value):
+    return FixedList(value) if isinstance(value, list) else value
+
+
+class CallTest(unittest.TestCase):
+    def answer_of(self, call, arguments):
+        """Calls once; the answer must be a plain list of plain whole numbers, and nothing may be printed."""
+        printed = io.StringIO()
+        with contextlib.redirect_stdout(printed), contextlib.redirect_stderr(printed):
+            answer = call(*arguments)
+        self.assertEqual(printed.getvalue(), "")
+        self.assertIs(type(answer), list)
+        for number in answer:
+            self.assertIs(type(number), int)
+        return answer
+
+    def check(self, call, arguments, expected):
+        """The answer is as expected, also when asked again, and the arguments stay as they were."""
+        before = copy.deepcopy(arguments)
+        first = self.answer_of(call, arguments)
+        self.assertEqual(first, expected)
+        self.assertEqual(arguments, before)
+        # An answer that the call kept for itself would now come back spoilt.
+        first.append(-7)
+        self.assertEqual(self.answer_of(call, arguments), expected)
+        self.assertEqual(arguments, before)
+        self.assertEqual(self.answer_of(call, tuple(fixed(value) for value in arguments)), expected)
+
+    def check_names(self, call, names):
+        parameters = inspect.signature(call).parameters
+        self.assertEqual(list(parameters), names)
+        for parameter in parameters.values():
+            self.assertIs(parameter.default, inspect.Parameter.empty)

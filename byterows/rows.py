@@ -29,3 +29,25 @@ def in_set(some_set, p):
         if holds(some_set, p[k]):
             return [k]
     return [len(p)]
+
+
+def run(some_set, p):
+    """Where the first byte is that is not in the set; how many bytes p has where all are."""
+    for k in range(len(p)):
+        if not holds(some_set, p[k]):
+            return [k]
+    return [len(p)]
+
+
+def count(c, p):
+    """How many bytes c there are."""
+    found = 0
+    for byte in p:
+        if byte == c:
+            found += 1
+    return [found]
+
+
+def text(p):
+    """How many bytes there are before the first 0; how many p has where there is no 0."""
+    return find(0, p)

@@ -6,6 +6,31 @@ import inspect
 import io
 import unittest
 
+NO_BYTE = [0] * 32
+EVERY_BYTE = [255] * 32
+
+# Written out by hand, so that they don't lean on the rule under test.
+DIGITS = [0] * 6 + [255, 3] + [0] * 24
+ONE_BYTE_ALONE = {
+    0: [1] + [0] * 31,
+    1: [2] + [0] * 31,
+    7: [128] + [0] * 31,
+    8: [0, 1] + [0] * 30,
+    15: [0, 128] + [0] * 30,
+    20: [0, 0, 16] + [0] * 29,
+    65: [0] * 8 + [2] + [0] * 23,
+    127: [0] * 15 + [128] + [0] * 16,
+    128: [0] * 16 + [1] + [0] * 15,
+    248: [0] * 31 + [1],
+    254: [0] * 31 + [64],
+    255: [0] * 31 + [128],
+}
+
+
+def set_of(members):
+    bits = "".join("1" if c in members else "0" for c in range(256))
+    return [int(bits[start:start + 8][::-1], 2) for start in range(0, 256, 8)]
+
 
 def refuse_change(self, *arguments, **keywords):
     raise AssertionError("what was handed in is changed")

@@ -4,31 +4,7 @@ import itertools
 import unittest
 
 from byterows.rows import in_set
-from checks import CallTest
-
-NO_BYTE = [0] * 32
-EVERY_BYTE = [255] * 32
-
-# Written out by hand, so that they don't lean on the rule under test.
-ONE_BYTE_ALONE = {
-    0: [1] + [0] * 31,
-    1: [2] + [0] * 31,
-    7: [128] + [0] * 31,
-    8: [0, 1] + [0] * 30,
-    15: [0, 128] + [0] * 30,
-    20: [0, 0, 16] + [0] * 29,
-    65: [0] * 8 + [2] + [0] * 23,
-    127: [0] * 15 + [128] + [0] * 16,
-    128: [0] * 16 + [1] + [0] * 15,
-    248: [0] * 31 + [1],
-    254: [0] * 31 + [64],
-    255: [0] * 31 + [128],
-}
-
-
-def set_of(members):
-    bits = "".join("1" if c in members else "0" for c in range(256))
-    return [int(bits[start:start + 8][::-1], 2) for start in range(0, 256, 8)]
+from checks import DIGITS, EVERY_BYTE, NO_BYTE, ONE_BYTE_ALONE, CallTest, set_of
 
 
 class InSetTest(CallTest):
@@ -36,21 +12,18 @@ class InSetTest(CallTest):
         self.check_names(in_set, ["some_set", "p"])
 
     def test_first_middle_and_last_place(self):
-        digits = [0] * 6 + [255, 3] + [0] * 24
-        self.check(in_set, (digits, [48, 97, 98]), [0])
-        self.check(in_set, (digits, [97, 98, 57, 99]), [2])
-        self.check(in_set, (digits, [97, 47, 58, 53]), [3])
-        self.check(in_set, (digits, [55]), [0])
+        self.check(in_set, (DIGITS, [48, 97, 98]), [0])
+        self.check(in_set, (DIGITS, [97, 98, 57, 99]), [2])
+        self.check(in_set, (DIGITS, [97, 47, 58, 53]), [3])
+        self.check(in_set, (DIGITS, [55]), [0])
 
     def test_more_than_once_tells_the_first(self):
-        digits = [0] * 6 + [255, 3] + [0] * 24
-        self.check(in_set, (digits, [97, 57, 48, 98, 57]), [1])
-        self.check(in_set, (digits, [49, 49, 49]), [0])
+        self.check(in_set, (DIGITS, [97, 57, 48, 98, 57]), [1])
+        self.check(in_set, (DIGITS, [49, 49, 49]), [0])
 
     def test_none_answers_n(self):
-        digits = [0] * 6 + [255, 3] + [0] * 24
-        self.check(in_set, (digits, [47, 58, 97, 0, 255]), [5])
-        self.check(in_set, (digits, [47]), [1])
+        self.check(in_set, (DIGITS, [47, 58, 97, 0, 255]), [5])
+        self.check(in_set, (DIGITS, [47]), [1])
 
     def test_empty_row(self):
         for some_set in (NO_BYTE, EVERY_BYTE, ONE_BYTE_ALONE[0]):

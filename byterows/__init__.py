@@ -1,1 +1,1 @@
-"""Bytes looked through; the calls are in byterows.rows."""
+"""Bytes looked through and summed; the calls are in byterows.rows."""

@@ -1,1 +1,1 @@
-"""Bytes looked through and summed; the calls are in byterows.rows."""
+"""Bytes looked through, summed, turned round and framed; the calls are in byterows.rows."""

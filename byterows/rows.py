@@ -4,6 +4,9 @@
 ALL_ONES = 0xFFFFFFFF
 POLYNOMIAL = 0x82F63B78
 
+# Reflected, the highest bit stands for x to the 0, so this is the 1 of the polynomials.
+ONE = 0x80000000
+
 
 def find(c, p):
     """Where the first byte c is; how many bytes p has where there is none."""
@@ -79,14 +82,20 @@ def compare(q, p):
     return [0]
 
 
+def shifted(state):
+    """The sum's 32 bits one step on; as a polynomial, times x."""
+    shifted_out = state & 1
+    state = state >> 1
+    if shifted_out == 1:
+        state = state ^ POLYNOMIAL
+    return state
+
+
 def gone_on(state, byte):
     """The sum's 32 bits, not turned, when one more byte has gone in."""
     state = state ^ byte
     for step in range(8):
-        shifted_out = state & 1
-        state = state >> 1
-        if shifted_out == 1:
-            state = state ^ POLYNOMIAL
+        state = shifted(state)
     return state
 
 
@@ -97,3 +106,57 @@ def sum_of(before, p):
     for byte in p:
         state = gone_on(state, byte)
     return [state ^ ALL_ONES]
+
+
+def times(a, b):
+    """The product of two polynomials, bits reflected: the rest that the sum's own polynomial leaves of it."""
+    product = 0
+    for k in range(31, -1, -1):
+        bit = (a >> k) & 1
+        if bit == 1:
+            product = product ^ b
+        b = shifted(b)
+    return product
+
+
+def zeros_factor(n):
+    """What going on by n bytes 0 multiplies the sum's 32 bits by."""
+    # n may be far too many to go on by one after the other, so the factor is squared along the bits of n.
+    factor = ONE
+    square = gone_on(ONE, 0)
+    while n > 0:
+        if n % 2 == 1:
+            factor = times(factor, square)
+        square = times(square, square)
+        n = n // 2
+    return factor
+
+
+def join(a, b, n):
+    """The sum of two rows together: a the first one's sum, b the second one's, n how many bytes the second has."""
+    return [times(a, zeros_factor(n)) ^ b]
+
+
+def turn(width, p):
+    """0, then p's bytes, each group of width the other way round; -1 where that can't be done."""
+    if width not in (2, 4, 8) or len(p) % width != 0:
+        return [-1]
+    answer = [0]
+    for start in range(0, len(p), width):
+        for k in range(start + width - 1, start - 1, -1):
+            answer.append(p[k])
+    return answer
+
+
+def four_bytes(number):
+    """A number of 32 bits as four bytes, the highest first."""
+    return [number >> 24, (number >> 16) & 255, (number >> 8) & 255, number & 255]
+
+
+def frame(cap, p):
+    """How many bytes p's frame has, then these; 0 alone where they are more than cap."""
+    size = len(p) + 8
+    if size > cap:
+        return [0]
+    summed = four_bytes(len(p)) + p
+    return [size] + summed + four_bytes(sum_of(0, summed)[0])

@@ -4,6 +4,7 @@ import contextlib
 import copy
 import inspect
 import io
+import signal
 import unittest
 
 NO_BYTE = [0] * 32
@@ -26,10 +27,29 @@ ONE_BYTE_ALONE = {
     255: [0] * 31 + [128],
 }
 
+NINE = [49, 50, 51, 52, 53, 54, 55, 56, 57]
+UPWARDS = list(range(256))
+HIGHEST = 4294967295
+
 
 def set_of(members):
     bits = "".join("1" if c in members else "0" for c in range(256))
     return [int(bits[start:start + 8][::-1], 2) for start in range(0, 256, 8)]
+
+
+def reflected(number, width):
+    return int(format(number, "b").zfill(width)[::-1], 2)
+
+
+def divided(before, row):
+    """The sum the other way: highest bit first, one long division of the whole row by 1EDC6F41, bits turned round."""
+    bits = "".join(format(byte, "08b")[::-1] for byte in row) + "0" * 32
+    width = len(bits)
+    rest = int(bits, 2) ^ reflected(before ^ HIGHEST, 32) << (width - 32)
+    for place in range(width - 1, 31, -1):
+        if rest >> place & 1:
+            rest ^= 0x11EDC6F41 << (place - 32)
+    return reflected(rest, 32) ^ HIGHEST
 
 
 def refuse_change(self, *arguments, **keywords):
@@ -45,6 +65,22 @@ class FixedList(list):
 
 def fixed(value):
     return FixedList(value) if isinstance(value, list) else value
+
+
+def too_slow(number, stack):
+    raise AssertionError("not in good time")
+
+
+@contextlib.contextmanager
+def good_time():
+    """Ten seconds are many times what the slowest call needs; a call that would not end fails instead of hanging."""
+    before = signal.signal(signal.SIGALRM, too_slow)
+    signal.alarm(10)
+    try:
+        yield
+    finally:
+        signal.alarm(0)
+        signal.signal(signal.SIGALRM, before)
 
 
 class CallTest(unittest.TestCase):
@@ -65,6 +101,8 @@ class CallTest(unittest.TestCase):
         first = self.answer_of(call, arguments)
         self.assertEqual(first, expected)
         self.assertEqual(arguments, before)
+        for value in arguments:
+            self.assertIsNot(first, value)
         # An answer that the call kept for itself would now come back spoilt.
         first.append(-7)
         self.assertEqual(self.answer_of(call, arguments), expected)

@@ -4,26 +4,7 @@ import itertools
 import unittest
 
 from byterows.rows import sum_of
-from checks import CallTest
-
-NINE = [49, 50, 51, 52, 53, 54, 55, 56, 57]
-UPWARDS = list(range(256))
-HIGHEST = 4294967295
-
-
-def reflected(number, width):
-    return int(format(number, "b").zfill(width)[::-1], 2)
-
-
-def divided(before, row):
-    """The sum the other way: highest bit first, one long division of the whole row by 1EDC6F41, bits turned round."""
-    bits = "".join(format(byte, "08b")[::-1] for byte in row) + "0" * 32
-    width = len(bits)
-    rest = int(bits, 2) ^ reflected(before ^ HIGHEST, 32) << (width - 32)
-    for place in range(width - 1, 31, -1):
-        if rest >> place & 1:
-            rest ^= 0x11EDC6F41 << (place - 32)
-    return reflected(rest, 32) ^ HIGHEST
+from checks import HIGHEST, NINE, UPWARDS, CallTest, divided
 
 
 class SumOfTest(CallTest):

@@ -1,1 +1,1 @@
-"""Bytes looked through, summed, turned round and framed; the calls are in byterows.rows."""
+"""Bytes looked through, summed, turned round, and framed so that frames are found again; see byterows.rows."""

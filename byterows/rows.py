@@ -160,3 +160,33 @@ def frame(cap, p):
         return [0]
     summed = four_bytes(len(p)) + p
     return [size] + summed + four_bytes(sum_of(0, summed)[0])
+
+
+def number_at(p, k):
+    """The number that the four bytes of p from k on tell, the highest first."""
+    return (p[k] << 24) | (p[k + 1] << 16) | (p[k + 2] << 8) | p[k + 3]
+
+
+def states_along(state, p):
+    """The sum's 32 bits ahead of p's first byte and behind each of its bytes."""
+    states = [state]
+    for byte in p:
+        state = gone_on(state, byte)
+        states.append(state)
+    return states
+
+
+def next_frame(p):
+    """The first place where a whole frame stands, then how many bytes its row has; p's own length, then 0, if none."""
+    # Summing anew at each place could go through p thousands of times. As in join, the sum behind a part is the sum
+    # ahead of it times the part's factor, combined with the part's own: so that is told by the other two.
+    sums = [state ^ ALL_ONES for state in states_along(ALL_ONES, p)]
+    factors = states_along(ONE, [0] * len(p))
+    for k in range(len(p) - 7):
+        length = number_at(p, k)
+        behind = k + 4 + length
+        if behind + 4 <= len(p):
+            own = sums[behind] ^ times(sums[k], factors[4 + length])
+            if own == number_at(p, behind):
+                return [k, length]
+    return [len(p), 0]

@@ -52,6 +52,12 @@ def divided(before, row):
     return reflected(rest, 32) ^ HIGHEST
 
 
+def framed(row):
+    """The frame's bytes the other way: Python's own bytes, and the sum by long division."""
+    summed = len(row).to_bytes(4, "big") + bytes(row)
+    return list(summed + divided(0, summed).to_bytes(4, "big"))
+
+
 def refuse_change(self, *arguments, **keywords):
     raise AssertionError("what was handed in is changed")
 

@@ -3,15 +3,9 @@
 import unittest
 
 from byterows.rows import frame
-from checks import NINE, UPWARDS, CallTest, divided
+from checks import NINE, UPWARDS, CallTest, divided, framed
 
 HIGHEST_CAP = 2**64 - 1
-
-
-def framed(row):
-    """The frame's bytes the other way: Python's own bytes, and the sum by long division."""
-    summed = len(row).to_bytes(4, "big") + bytes(row)
-    return list(summed + divided(0, summed).to_bytes(4, "big"))
 
 
 class FrameTest(CallTest):
